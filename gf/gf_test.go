@@ -1,9 +1,6 @@
 package gf_test
 
 import (
-	"go/ast"
-	"go/parser"
-	"go/token"
 	"math"
 	"slices"
 	"sync"
@@ -347,8 +344,8 @@ func TestAnswersHangOnArgumentsAlone(t *testing.T) {
 	}
 }
 
-// R3, R4, R5, R7: gf hands out just its five calls on bytes and numbers, and keeps no variable; so there is no object, list or text that these rules could be broken by.
-func TestNothingIsHandedOutOrKept(t *testing.T) {
+// R3, R4, R5, R7: gf's calls are on bytes and numbers alone; so there is no object, list or text that these rules could be broken by. (That it hands out nothing else, and keeps nothing, is held in the folder layers.)
+func TestCallsAreOnBytesAndNumbers(t *testing.T) {
 	var (
 		_ func(a, b byte) byte              = gf.Mul
 		_ func(a, b byte) (byte, api.Errno) = gf.Div
@@ -356,25 +353,4 @@ func TestNothingIsHandedOutOrKept(t *testing.T) {
 		_ func(n int) byte                  = gf.Pow
 		_ func(a byte) (int, api.Errno)     = gf.Log
 	)
-	file, err := parser.ParseFile(token.NewFileSet(), "gf.go", nil, 0)
-	if err != nil {
-		t.Fatal(err)
-	}
-	var calls []string
-	for _, d := range file.Decls {
-		switch x := d.(type) {
-		case *ast.FuncDecl:
-			if x.Name.IsExported() {
-				calls = append(calls, x.Name.Name)
-			}
-		case *ast.GenDecl:
-			if x.Tok == token.VAR || x.Tok == token.TYPE {
-				t.Errorf("gf has a %s", x.Tok)
-			}
-		}
-	}
-	slices.Sort(calls)
-	if !slices.Equal(calls, []string{"Div", "Inv", "Log", "Mul", "Pow"}) {
-		t.Errorf("the calls of gf are %v", calls)
-	}
 }

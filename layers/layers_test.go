@@ -1,7 +1,8 @@
-// Package layers has no program code: its tests hold what the project's packages import against the document.
+// Package layers has no program code: its tests hold what the project's packages import and hand out against the document.
 package layers
 
 import (
+	"go/ast"
 	"go/parser"
 	"go/token"
 	"path/filepath"
@@ -34,14 +35,19 @@ func programFiles(t *testing.T, name string) []string {
 	return files
 }
 
-// imports tells what a file imports.
-func imports(t *testing.T, path string) []string {
-	file, err := parser.ParseFile(token.NewFileSet(), path, nil, parser.ImportsOnly)
+// parsed is a file's code, or its imports alone, as mode has it.
+func parsed(t *testing.T, path string, mode parser.Mode) *ast.File {
+	file, err := parser.ParseFile(token.NewFileSet(), path, nil, mode)
 	if err != nil {
 		t.Fatal(err)
 	}
+	return file
+}
+
+// imports tells what a file imports.
+func imports(t *testing.T, path string) []string {
 	var found []string
-	for _, i := range file.Imports {
+	for _, i := range parsed(t, path, parser.ImportsOnly).Imports {
 		from, err := strconv.Unquote(i.Path.Value)
 		if err != nil {
 			t.Fatal(err)
@@ -62,5 +68,48 @@ func TestALayerImportsWhatIsBelowIt(t *testing.T) {
 			}
 		}
 		may = append(may, "casemate/"+name)
+	}
+}
+
+// callsAlone has the calls, by the alphabet, of each built layer for which the document lists calls and no types.
+func callsAlone() map[string]string {
+	return map[string]string{
+		"gf":     "Div Inv Log Mul Pow",
+		"parity": "Change Fix Of Right",
+	}
+}
+
+// exported tells the calls that a file hands out, and of what kinds the variables and types are that it has beside them.
+func exported(file *ast.File) (calls, kept []string) {
+	for _, d := range file.Decls {
+		switch x := d.(type) {
+		case *ast.FuncDecl:
+			if x.Name.IsExported() {
+				calls = append(calls, x.Name.Name)
+			}
+		case *ast.GenDecl:
+			if x.Tok == token.VAR || x.Tok == token.TYPE {
+				kept = append(kept, x.Tok.String())
+			}
+		}
+	}
+	return calls, kept
+}
+
+// R3, R6: a layer of calls alone has no object, and nothing in which it could keep what it was given.
+func TestALayerOfCallsHandsOutTheseAlone(t *testing.T) {
+	for name, want := range callsAlone() {
+		var calls []string
+		for _, path := range programFiles(t, name) {
+			found, kept := exported(parsed(t, path, 0))
+			calls = append(calls, found...)
+			if len(kept) > 0 {
+				t.Errorf("%s has at package level: %v", path, kept)
+			}
+		}
+		slices.Sort(calls)
+		if !slices.Equal(calls, strings.Fields(want)) {
+			t.Errorf("the calls of %s are %v", name, calls)
+		}
 	}
 }
