@@ -1,4 +1,4 @@
-// Package layers has no program code: its tests hold what the project's packages import and hand out against the document.
+// Package layers has no program code: its tests hold what the project's packages import, hand out and keep against the document.
 package layers
 
 import (
@@ -71,45 +71,165 @@ func TestALayerImportsWhatIsBelowIt(t *testing.T) {
 	}
 }
 
-// callsAlone has the calls, by the alphabet, of each built layer for which the document lists calls and no types.
-func callsAlone() map[string]string {
+// listed has what each built layer's chapter lists, by the alphabet: its calls, its types, and the methods of these.
+func listed() map[string]string {
 	return map[string]string{
 		"gf":     "Div Inv Log Mul Pow",
 		"parity": "Change Fix Of Right",
+		"sha":    "Ahead Of Prefix Prefix.More Prefix.Size Prefix.Sum Sum Text",
 	}
 }
 
-// exported tells the calls that a file hands out, and of what kinds the variables and types are that it has beside them.
-func exported(file *ast.File) (calls, kept []string) {
+// callName is a call's name; ahead of a method's stands what it is a method of.
+func callName(call *ast.FuncDecl) string {
+	if call.Recv == nil {
+		return call.Name.Name
+	}
+	of := call.Recv.List[0].Type
+	if pointer, ok := of.(*ast.StarExpr); ok {
+		of = pointer.X
+	}
+	if name, ok := of.(*ast.Ident); ok {
+		return name.Name + "." + call.Name.Name
+	}
+	return "?." + call.Name.Name
+}
+
+// declared tells the names that a declaration gives to things of the package.
+func declared(d ast.Decl) []string {
+	if call, ok := d.(*ast.FuncDecl); ok {
+		return []string{callName(call)}
+	}
+	var found []string
+	for _, s := range d.(*ast.GenDecl).Specs {
+		switch x := s.(type) {
+		case *ast.TypeSpec:
+			found = append(found, x.Name.Name)
+		case *ast.ValueSpec:
+			for _, n := range x.Names {
+				found = append(found, n.Name)
+			}
+		}
+	}
+	return found
+}
+
+// handedOut tells which names of a file other packages see.
+func handedOut(file *ast.File) []string {
+	var found []string
 	for _, d := range file.Decls {
-		switch x := d.(type) {
-		case *ast.FuncDecl:
-			if x.Name.IsExported() {
-				calls = append(calls, x.Name.Name)
-			}
-		case *ast.GenDecl:
-			if x.Tok == token.VAR || x.Tok == token.TYPE {
-				kept = append(kept, x.Tok.String())
+		for _, name := range declared(d) {
+			of, method, isMethod := strings.Cut(name, ".")
+			if ast.IsExported(of) && (!isMethod || ast.IsExported(method)) {
+				found = append(found, name)
 			}
 		}
 	}
-	return calls, kept
+	return found
 }
 
-// R3, R6: a layer of calls alone has no object, and nothing in which it could keep what it was given.
-func TestALayerOfCallsHandsOutTheseAlone(t *testing.T) {
-	for name, want := range callsAlone() {
-		var calls []string
+func TestALayerHandsOutWhatIsListed(t *testing.T) {
+	for name, want := range listed() {
+		var found []string
 		for _, path := range programFiles(t, name) {
-			found, kept := exported(parsed(t, path, 0))
-			calls = append(calls, found...)
-			if len(kept) > 0 {
-				t.Errorf("%s has at package level: %v", path, kept)
+			found = append(found, handedOut(parsed(t, path, 0))...)
+		}
+		slices.Sort(found)
+		if !slices.Equal(found, strings.Fields(want)) {
+			t.Errorf("%s hands out %v", name, found)
+		}
+	}
+}
+
+// variables tells the names of a file's variables at package level, and which of them are no arrays written out where they are declared.
+func variables(file *ast.File) (all, others []string) {
+	for _, d := range file.Decls {
+		g, ok := d.(*ast.GenDecl)
+		if !ok || g.Tok != token.VAR {
+			continue
+		}
+		for _, s := range g.Specs {
+			v := s.(*ast.ValueSpec)
+			for i, n := range v.Names {
+				all = append(all, n.Name)
+				if i >= len(v.Values) || !isArray(v.Values[i]) {
+					others = append(others, n.Name)
+				}
 			}
 		}
-		slices.Sort(calls)
-		if !slices.Equal(calls, strings.Fields(want)) {
-			t.Errorf("the calls of %s are %v", name, calls)
+	}
+	return all, others
+}
+
+// isArray tells whether a value is an array written out.
+func isArray(value ast.Expr) bool {
+	literal, ok := value.(*ast.CompositeLit)
+	if !ok {
+		return false
+	}
+	array, ok := literal.Type.(*ast.ArrayType)
+	return ok && array.Len != nil
+}
+
+// root is the name that an expression begins from: l, of l[i].x.
+func root(e ast.Expr) string {
+	for {
+		switch x := e.(type) {
+		case *ast.Ident:
+			return x.Name
+		case *ast.IndexExpr:
+			e = x.X
+		case *ast.SelectorExpr:
+			e = x.X
+		case *ast.SliceExpr:
+			e = x.X
+		case *ast.ParenExpr:
+			e = x.X
+		default:
+			return ""
+		}
+	}
+}
+
+// changed tells the names that a file assigns to, cuts slices of, or takes the address of.
+func changed(file *ast.File) []string {
+	var found []string
+	ast.Inspect(file, func(n ast.Node) bool {
+		switch x := n.(type) {
+		case *ast.AssignStmt:
+			for _, to := range x.Lhs {
+				found = append(found, root(to))
+			}
+		case *ast.IncDecStmt:
+			found = append(found, root(x.X))
+		case *ast.UnaryExpr:
+			if x.Op == token.AND {
+				found = append(found, root(x.X))
+			}
+		case *ast.SliceExpr:
+			found = append(found, root(x))
+		}
+		return true
+	})
+	return found
+}
+
+// R6: a layer has nothing in which it could keep what it was given: its variables are tables that stay as they are.
+func TestALayerKeepsTablesAlone(t *testing.T) {
+	for name := range listed() {
+		var tables, touched []string
+		for _, path := range programFiles(t, name) {
+			file := parsed(t, path, 0)
+			all, others := variables(file)
+			if len(others) > 0 {
+				t.Errorf("%s has at package level, beside tables: %v", path, others)
+			}
+			tables, touched = append(tables, all...), append(touched, changed(file)...)
+		}
+		for _, table := range tables {
+			if slices.Contains(touched, table) {
+				t.Errorf("%s does not leave %s as it is", name, table)
+			}
 		}
 	}
 }
