@@ -77,6 +77,7 @@ func listed() map[string]string {
 		"gf":     "Div Inv Log Mul Pow",
 		"parity": "Change Fix Of Right",
 		"sha":    "Ahead Of Prefix Prefix.More Prefix.Size Prefix.Sum Sum Text",
+		"hmac":   "Of Parts Same Stretch",
 	}
 }
 
