@@ -78,6 +78,7 @@ func listed() map[string]string {
 		"parity": "Change Fix Of Right",
 		"sha":    "Ahead Of Prefix Prefix.More Prefix.Size Prefix.Sum Sum Text",
 		"hmac":   "Of Parts Same Stretch",
+		"pbkdf":  "Key Pass",
 	}
 }
 
