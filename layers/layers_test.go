@@ -79,6 +79,7 @@ func listed() map[string]string {
 		"sha":    "Ahead Of Prefix Prefix.More Prefix.Size Prefix.Sum Sum Text",
 		"hmac":   "Of Parts Same Stretch",
 		"pbkdf":  "Key Pass",
+		"bytes":  "Num Open Parts Row Tape Tape.Bytes Tape.End Tape.Num Tape.Text Tape.Torn Text",
 	}
 }
 
