@@ -80,6 +80,7 @@ func listed() map[string]string {
 		"hmac":   "Of Parts Same Stretch",
 		"pbkdf":  "Key Pass",
 		"bytes":  "Num Open Parts Row Tape Tape.Bytes Tape.End Tape.Num Tape.Text Tape.Torn Text",
+		"aes":    "Cipher Cipher.Open Cipher.Seal New",
 	}
 }
 
