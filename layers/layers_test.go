@@ -82,6 +82,7 @@ func listed() map[string]string {
 		"bytes":  "Num Open Parts Row Tape Tape.Bytes Tape.End Tape.Num Tape.Text Tape.Torn Text",
 		"aes":    "Cipher Cipher.Open Cipher.Seal New",
 		"xts":    "Double Mode Mode.Open Mode.Seal New",
+		"derive": "Of Pair Set Sub",
 	}
 }
 
