@@ -83,6 +83,7 @@ func listed() map[string]string {
 		"aes":    "Cipher Cipher.Open Cipher.Seal New",
 		"xts":    "Double Mode Mode.Open Mode.Seal New",
 		"derive": "Of Pair Set Sub",
+		"box":    "Get Put Unwrap Wrap",
 	}
 }
 
