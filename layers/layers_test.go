@@ -85,6 +85,7 @@ func listed() map[string]string {
 		"derive": "Of Pair Set Sub",
 		"box":    "Get Put Unwrap Wrap",
 		"member": "Member Member.Back Member.Clean Member.Copy Member.Crash Member.Fail Member.Flush Member.Len Member.Look Member.Mark Member.Read Member.Set Member.Touched Member.Unflushed Member.Write New",
+		"cell":   "Cell Cell.Advance Cell.Copy Cell.History Cell.Read New",
 	}
 }
 
