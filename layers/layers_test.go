@@ -71,7 +71,7 @@ func TestALayerImportsWhatIsBelowIt(t *testing.T) {
 	}
 }
 
-// listed has what each built layer's chapter lists, by the alphabet: its calls, its types, and the methods of these.
+// listed has what each built layer's chapter lists, by the alphabet: its constants, its calls, its types, and the methods of these.
 func listed() map[string]string {
 	return map[string]string{
 		"gf":     "Div Inv Log Mul Pow",
@@ -86,6 +86,7 @@ func listed() map[string]string {
 		"box":    "Get Put Unwrap Wrap",
 		"member": "Member Member.Back Member.Clean Member.Copy Member.Crash Member.Fail Member.Flush Member.Len Member.Look Member.Mark Member.Read Member.Set Member.Touched Member.Unflushed Member.Write New",
 		"cell":   "Cell Cell.Advance Cell.Copy Cell.History Cell.Read New",
+		"bus":    "Back Bus Bus.Advance Bus.Cell Bus.Count Bus.Flush Bus.Log Bus.Members Bus.Off Bus.Power Bus.Read Bus.Sectors Bus.Write Crash DoAdvance DoCell DoFlush DoRead DoWrite Entry Fail Heal Mark New Set Step",
 	}
 }
 
