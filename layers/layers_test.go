@@ -88,6 +88,7 @@ func listed() map[string]string {
 		"cell":   "Cell Cell.Advance Cell.Copy Cell.History Cell.Read New",
 		"bus":    "Back Bus Bus.Advance Bus.Cell Bus.Count Bus.Flush Bus.Log Bus.Members Bus.Off Bus.Power Bus.Read Bus.Sectors Bus.Write Crash DoAdvance DoCell DoFlush DoRead DoWrite Entry Fail Heal Mark New Set Step",
 		"geom":   "Capacity Check Half Height Leaves Logical Nodes Place Sectors What",
+		"place":  "At Column Leaf Member Number Of",
 	}
 }
 
