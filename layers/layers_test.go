@@ -89,6 +89,7 @@ func listed() map[string]string {
 		"bus":    "Back Bus Bus.Advance Bus.Cell Bus.Count Bus.Flush Bus.Log Bus.Members Bus.Off Bus.Power Bus.Read Bus.Sectors Bus.Write Crash DoAdvance DoCell DoFlush DoRead DoWrite Entry Fail Heal Mark New Set Step",
 		"geom":   "Capacity Check Half Height Leaves Logical Nodes Place Sectors What",
 		"place":  "At Column Leaf Member Number Of",
+		"stripe": "New Row Row.Columns Row.Get Row.Lose Row.Lost Row.Mend Row.Put Row.Right Row.Write",
 	}
 }
 
