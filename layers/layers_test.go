@@ -90,6 +90,7 @@ func listed() map[string]string {
 		"geom":   "Capacity Check Half Height Leaves Logical Nodes Place Sectors What",
 		"place":  "At Column Leaf Member Number Of",
 		"stripe": "New Row Row.Columns Row.Get Row.Lose Row.Lost Row.Mend Row.Put Row.Right Row.Write",
+		"tags":   "Body BodyText Head HeadText Join Label Leaf LeafText Node NodeText Of RootText Split",
 	}
 }
 
