@@ -92,6 +92,7 @@ func listed() map[string]string {
 		"stripe": "New Row Row.Columns Row.Get Row.Lose Row.Lost Row.Mend Row.Put Row.Right Row.Write",
 		"tags":   "Body BodyText Head HeadText Join Label Leaf LeafText Node NodeText Of RootText Split",
 		"tree":   "Check New Path Tree Tree.Node Tree.Proof Tree.Set Tree.Tag Tree.Top",
+		"mirror": "Flush Put Read ReadNode Where",
 	}
 }
 
