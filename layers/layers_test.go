@@ -93,6 +93,7 @@ func listed() map[string]string {
 		"tags":   "Body BodyText Head HeadText Join Label Leaf LeafText Node NodeText Of RootText Split",
 		"tree":   "Check New Path Tree Tree.Node Tree.Proof Tree.Set Tree.Tag Tree.Top",
 		"mirror": "Flush Put Read ReadNode Where",
+		"nodes":  "Bad Change New Nodes Nodes.Bad Nodes.Forget Nodes.Known Nodes.Plan Nodes.Repair Nodes.Tag Nodes.Take Nodes.Top",
 	}
 }
 
